@@ -54,9 +54,14 @@ func (t *Text) Need(token string) {
 	}
 }
 
+// HasByte: whether a byte that fits stands next.
+func (t *Text) HasByte(fits func(byte) bool) bool {
+	return !t.Ended() && fits(t.all[t.at])
+}
+
 // NeedByte reads one byte, which must be there and fit.
 func (t *Text) NeedByte(fits func(byte) bool) {
-	if t.Ended() || !fits(t.all[t.at]) {
+	if !t.HasByte(fits) {
 		Throw(api.ErrForm, t.at)
 	}
 	t.at++
@@ -76,11 +81,14 @@ func (t *Text) Past(token string, missing int) api.Span {
 // While reads as many bytes as fit, perhaps none.
 func (t *Text) While(fits func(byte) bool) string {
 	from := t.at
-	for !t.Ended() && fits(t.all[t.at]) {
+	for t.HasByte(fits) {
 		t.at++
 	}
 	return t.since(from)
 }
+
+// HasName: whether a name begins next.
+func (t *Text) HasName() bool { return t.HasByte(isLetter) }
 
 // Name reads a name of any length: what too long a one is depends on where it stands.
 func (t *Text) Name() string {

@@ -71,6 +71,30 @@ func TestBytes(t *testing.T) {
 	}
 }
 
+func TestHasByte(t *testing.T) {
+	x := scan.New("xy")
+	if !x.HasByte(isX) || x.At() != 0 {
+		t.Errorf("HasByte reads, or is wrong: at %d", x.At())
+	}
+	x.Need("x")
+	if x.HasByte(isX) || x.At() != 1 {
+		t.Errorf("HasByte fits what does not: at %d", x.At())
+	}
+	x.Need("y")
+	if x.HasByte(func(byte) bool { return true }) {
+		t.Errorf("HasByte at the end")
+	}
+}
+
+func TestHasName(t *testing.T) {
+	for s, want := range map[string]bool{"a": true, "z1": true, "a?": true, "": false, "1": false, "-": false, "A": false, " a": false} {
+		x := scan.New(s)
+		if got := x.HasName(); got != want || x.At() != 0 {
+			t.Errorf("HasName of %q is %v, at %d", s, got, x.At())
+		}
+	}
+}
+
 func TestPast(t *testing.T) {
 	x := scan.New("(a))b)")
 	x.Need("(")
